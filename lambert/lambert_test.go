@@ -507,7 +507,8 @@ func TestWeightWhereDensityIsJustAboveNothing(t *testing.T) {
 		{"the least density", v(1, 1, 2*tiny), c(inf, nan, -inf)},
 		{"the least density, flatter", v(0, 0, 3*tiny), c(inf, nan, -inf)},
 		{"the greatest one whose inverse is infinite", v(0, 0, math.Ldexp(1, -1022)), c(inf, nan, -inf)},
-		{"the least one whose inverse is not", v(0, 0, math.Ldexp(1, -1021)), c(4, 0, -4)},
+		{"the least one whose inverse is not", v(0, 0, math.Ldexp(1, -1022)+4*tiny), c(4, 0, -4)},
+		{"twice as much", v(0, 0, math.Ldexp(1, -1021)), c(4, 0, -4)},
 		{"a little more", v(1, 1, math.Ldexp(1, -1000)), c(2, 0, -2)},
 	} {
 		if got := Weight(k, up, at.in); !alikeRGB(got, at.say) {
